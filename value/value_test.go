@@ -180,14 +180,69 @@ func TestTooGreat(t *testing.T) { // P5.2
 		{"1073741.825fr", value.Flex, api.ErrOver}, {"1073741.825fr", all, api.ErrOver}, {"1e99fr", value.Flex, api.ErrOver}, {"-1e99fr", all, api.ErrOver},
 		{"1e99%", all &^ value.Pct, api.ErrSyntax}, {"1e99fr", all &^ value.Flex, api.ErrSyntax}, // what is not allowed goes ahead of that
 		{"-1px", all &^ value.Neg, api.ErrSyntax}, {"-1%", all &^ value.Neg, api.ErrSyntax}, {"-0.001fr", all, api.ErrSyntax}, {"-1fr", all &^ value.Neg, api.ErrSyntax},
-		{strings.Repeat("0", 299) + "1px", 0, api.OK}, {strings.Repeat("0", 300) + "1px", 0, api.ErrNumber},
-		{strings.Repeat("0", 300) + "1%", all, api.ErrNumber}, {strings.Repeat("0", 300) + "1%", 0, api.ErrSyntax},
 	} {
-		want := api.Len{}
-		if x.e == api.OK {
-			want = px(64)
+		reads(t, one(t, x.s), x.allow, api.Len{}, x.e)
+	}
+}
+
+// beyond asks of numbers at the limit of a unit, and next beyond it, on the side below 0 or on the other one.
+func beyond(t *testing.T, last, next string, allow int, want api.Len, e api.Errno) {
+	t.Helper()
+	reads(t, one(t, last), allow, want, api.OK)
+	reads(t, one(t, next), allow, api.Len{}, e)
+}
+
+func TestBeyond(t *testing.T) { // P5.2: too great is what is beyond a limit, on either side; below 0 is what may not be there at all
+	for _, more := range []int{0, value.Auto, value.Cont | value.None, 1 << 20} {
+		per, below, parts := value.Pct|more, value.Pct|value.Neg|more, value.Flex|more
+		beyond(t, "1073741.824%", "1073741.825%", per, pct(api.MaxMille), api.ErrOver)
+		beyond(t, "1073741.824%", "1073741.825%", below, pct(api.MaxMille), api.ErrOver)
+		beyond(t, "-1073741.824%", "-1073741.825%", below, pct(-api.MaxMille), api.ErrOver)
+		beyond(t, "-1073741.8244%", "-1073741.8245%", below, pct(-api.MaxMille), api.ErrOver)
+		beyond(t, "-0.0004%", "-1073741.824%", per, pct(0), api.ErrSyntax)
+		beyond(t, "-0.0004%", "-1073741.825%", per, pct(0), api.ErrSyntax)
+		beyond(t, "1073741.824fr", "1073741.825fr", parts, fr(api.MaxMille), api.ErrOver)
+		beyond(t, "1073741.824fr", "1073741.825fr", parts|value.Neg, fr(api.MaxMille), api.ErrOver)
+		for _, s := range []string{"-0.001fr", "-1fr", "-1073741.824fr", "-1073741.825fr", "-68719476.736fr"} {
+			reads(t, one(t, s), parts, api.Len{}, api.ErrSyntax)
+			reads(t, one(t, s), parts|value.Neg, api.Len{}, api.ErrSyntax)
 		}
-		reads(t, one(t, x.s), x.allow, want, x.e)
+		for _, s := range []string{"-2000000%", "-68719476.736%", "-68719476.737%"} {
+			reads(t, one(t, s), below, api.Len{}, api.ErrOver)
+		}
+		reads(t, one(t, "-68719476.736%"), per, api.Len{}, api.ErrSyntax)
+		reads(t, one(t, "-2000000000px"), value.Neg|more, api.Len{}, api.ErrOver)
+	}
+}
+
+// noNumbers are texts of which number has no value.
+func noNumbers() []string {
+	return []string{"", "abc", "1.", "--1", "+", "-", ".", "1e", "1e+", " 1", "1 ", "1px", "0x1", "1,5", strings.Repeat("0", 300) + "1", strings.Repeat("0", 301), "1." + strings.Repeat("0", 299)}
+}
+
+func TestNoNumbers(t *testing.T) { // P5.2, P5.3: ErrNumber is no error of these
+	for _, num := range noNumbers() {
+		for _, word := range []api.Token{
+			{Kind: api.TokDim, Text: "px", Num: num}, {Kind: api.TokDim, Text: "PX", Num: num}, {Kind: api.TokDim, Text: "fr", Num: num}, {Kind: api.TokPct, Num: num},
+		} {
+			for allow := range all + 1 {
+				reads(t, word, allow, api.Len{}, api.ErrSyntax)
+			}
+		}
+		reads(t, api.Token{Kind: api.TokDim, Text: "em", Num: num}, all, api.Len{}, api.ErrFeature)
+		if n, next, e := value.Integer([]api.Token{{}, {Kind: api.TokNum, Num: num}}, 1); n != 0 || next != 1 || e != api.ErrSyntax {
+			t.Errorf("%q: %d, %d, %d", num, n, next, int(e))
+		}
+	}
+	long := strings.Repeat("0", 299) + "1"
+	reads(t, one(t, long+"px"), 0, px(64), api.OK)
+	reads(t, one(t, long+"%"), value.Pct, pct(1000), api.OK)
+	reads(t, one(t, long+"%"), all&^value.Pct, api.Len{}, api.ErrSyntax)
+	reads(t, one(t, long+"fr"), value.Flex, fr(1000), api.OK)
+	reads(t, one(t, long+"fr"), all&^value.Flex, api.Len{}, api.ErrSyntax)
+	// What is nought without a unit is so however long it is, and whatever else it looks like.
+	for _, num := range []string{"", "+", "-", ".", strings.Repeat("0", 300), strings.Repeat("0", 301), "0e" + strings.Repeat("1", 400)} {
+		reads(t, api.Token{Kind: api.TokNum, Num: num}, 0, px(0), api.OK)
 	}
 }
 
@@ -226,7 +281,7 @@ func TestInteger(t *testing.T) { // P5.3
 		}
 	}
 	for s, want := range map[string]api.Errno{
-		"68719476737": api.ErrOver, "-68719476737": api.ErrOver, strings.Repeat("9", 300): api.ErrOver, strings.Repeat("0", 301): api.ErrNumber,
+		"68719476737": api.ErrOver, "-68719476737": api.ErrOver, strings.Repeat("9", 300): api.ErrOver, "-" + strings.Repeat("9", 299): api.ErrOver, strings.Repeat("0", 301): api.ErrSyntax, "-" + strings.Repeat("0", 299) + "1": api.ErrSyntax,
 		"1.0": api.ErrSyntax, ".5": api.ErrSyntax, "0.0": api.ErrSyntax, "1e0": api.ErrSyntax, "1E0": api.ErrSyntax, "1e99": api.ErrSyntax, "1.5e1": api.ErrSyntax, "1e-1": api.ErrSyntax,
 		"1px": api.ErrSyntax, "1%": api.ErrSyntax, "2fr": api.ErrSyntax, "1em": api.ErrSyntax, "a": api.ErrSyntax, "inherit": api.ErrSyntax, "calc(": api.ErrSyntax, `"1"`: api.ErrSyntax, ",": api.ErrSyntax,
 	} {

@@ -24,7 +24,7 @@ func Integer(l []api.Token, at int) (int, int, api.Errno) {
 	if word.Kind != api.TokNum || strings.ContainsAny(word.Num, ".eE") {
 		return 0, at, api.ErrSyntax
 	}
-	n, e := number.Value(word.Num, 1)
+	n, e := scaled(word.Num, 1)
 	if e != api.OK {
 		return 0, at, e
 	}
@@ -103,16 +103,26 @@ func isNought(num string) bool {
 	return strings.Trim(num, "+-.0") == ""
 }
 
+// scaled tells a number's value; a word whose number has none is not one of those that may be read, so nothing but ErrOver is handed on.
+func scaled(num string, scale int) (int, api.Errno) {
+	n, e := number.Value(num, scale)
+	if e != api.OK && e != api.ErrOver {
+		return 0, api.ErrSyntax
+	}
+	return n, e
+}
+
 // measured tells a size of a number's text.
 func measured(num string, kind, scale, allow int) (api.Len, api.Errno) {
-	n, e := number.Value(num, scale)
+	n, e := scaled(num, scale)
 	v := api.Len{Kind: kind, N: n}
+	mayBeBelow := Good(api.Len{Kind: kind, N: -1}, allow)
 	switch {
 	case e != api.OK:
 		return api.Len{}, e
 	case Good(v, allow):
 		return v, api.OK
-	case n < 0:
+	case n < 0 && !mayBeBelow:
 		return api.Len{}, api.ErrSyntax
 	}
 	return api.Len{}, api.ErrOver
