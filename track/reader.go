@@ -123,15 +123,19 @@ func (r *reader) beginsSize() bool {
 	return e == api.OK || r.isFunc("minmax") || r.isFunc("fit-content")
 }
 
+// failNoSize leaves for the next word, with which no size begins: value knows why.
+func (r *reader) failNoSize() {
+	_, _, e := value.Read(r.words, r.at, greatest)
+	r.fail(e)
+}
+
 func (r *reader) sizes() []api.Track {
 	var list []api.Track
 	for len(list) == 0 || r.beginsSize() {
-		from := r.at
-		size := r.size()
 		if len(list) == api.MaxPieces {
-			panic(wrong{from, api.ErrLimit})
+			r.fail(api.ErrLimit)
 		}
-		list = append(list, size)
+		list = append(list, r.size())
 	}
 	return list
 }
@@ -165,7 +169,7 @@ func (r *reader) list(repeats bool) []api.Piece {
 		list = append(list, piece)
 	}
 	if !hasTracks(list) {
-		r.size() // leaves: no size begins here, and value knows why
+		r.failNoSize()
 	}
 	return list
 }
@@ -207,7 +211,10 @@ func (r *reader) repeat() api.Piece {
 	piece := r.times()
 	r.sign(",")
 	piece.Inner = r.list(false)
-	r.sign(")")
+	if !r.isSign(")") {
+		r.failNoSize()
+	}
+	r.at++
 	return piece
 }
 

@@ -212,6 +212,7 @@ func TestSizes(t *testing.T) { // P6.1
 		{"10px", 1, []api.Track{ten}}, {"10px 50% auto", 3, []api.Track{ten, half, minmax(auto, auto)}}, {"1fr minmax(10px, 50%) fit-content(10px) 10px", 10, []api.Track{minmax(auto, fr(1)), minmax(px(10), pct(50)), fit(px(10)), ten}},
 		{"10px;", 1, []api.Track{ten}}, {"10px 50% [a] 10px", 2, []api.Track{ten, half}}, {"10px none", 1, []api.Track{ten}}, {"10px a", 1, []api.Track{ten}}, {"10px 1", 1, []api.Track{ten}}, {"10px, 10px", 1, []api.Track{ten}}, {"10px repeat(2, 10px)", 1, []api.Track{ten}}, {"10px minmax", 1, []api.Track{ten}}, {"10px -1px", 1, []api.Track{ten}}, {"10px / 50%", 1, []api.Track{ten}},
 		{most, api.MaxPieces, slices.Repeat([]api.Track{ten}, api.MaxPieces)}, {most + " ; 10px", api.MaxPieces, slices.Repeat([]api.Track{ten}, api.MaxPieces)},
+		{most + " repeat(2, 1px)", api.MaxPieces, slices.Repeat([]api.Track{ten}, api.MaxPieces)}, {most + " minmax", api.MaxPieces, slices.Repeat([]api.Track{ten}, api.MaxPieces)}, {most + " 2em 10px", api.MaxPieces, slices.Repeat([]api.Track{ten}, api.MaxPieces)}, {most + " 1e99px", api.MaxPieces, slices.Repeat([]api.Track{ten}, api.MaxPieces)}, {most + " -1px", api.MaxPieces, slices.Repeat([]api.Track{ten}, api.MaxPieces)},
 	} {
 		for l, at := range surroundings(t, x.s) {
 			if r, n, e := track.Sizes(l, at); !slices.Equal(r, x.want) || n != at+x.next || e != api.OK {
@@ -227,6 +228,9 @@ func TestSizes(t *testing.T) { // P6.1
 		{"", 0, api.ErrSyntax}, {"none", 0, api.ErrSyntax}, {"[a] 1px", 0, api.ErrSyntax}, {"repeat(2, 1px)", 0, api.ErrSyntax}, {"-1px", 0, api.ErrSyntax}, {"1em", 0, api.ErrFeature}, {"calc(1px)", 0, api.ErrFeature}, {"unset", 0, api.ErrFeature}, {"1e99px", 0, api.ErrOver},
 		{"minmax(1fr, 1px)", 1, api.ErrSyntax}, {"10px minmax(1px, 1em)", 4, api.ErrFeature}, {"10px fit-content(auto)", 2, api.ErrSyntax}, {"10px 1fr fit-content(1e99px)", 3, api.ErrOver}, {"10px minmax(1px", 3, api.ErrSyntax},
 		{most + " 10px", api.MaxPieces, api.ErrLimit}, {most + " minmax(1px, 2px)", api.MaxPieces, api.ErrLimit}, {most + " fit-content(1px)", api.MaxPieces, api.ErrLimit},
+		// a size begins there, whatever stands within
+		{most + " minmax()", api.MaxPieces, api.ErrLimit}, {most + " MINMAX(", api.MaxPieces, api.ErrLimit}, {most + " minmax(1px, 2em)", api.MaxPieces, api.ErrLimit}, {most + " minmax(1px 1px)", api.MaxPieces, api.ErrLimit}, {most + " fit-content(2em)", api.MaxPieces, api.ErrLimit}, {most + " fit-content(", api.MaxPieces, api.ErrLimit}, {most + " fit-content(1e99px", api.MaxPieces, api.ErrLimit},
+		{times(api.MaxPieces-1, "10px") + " minmax()", api.MaxPieces, api.ErrSyntax}, {times(api.MaxPieces-1, "10px") + " fit-content(2em)", api.MaxPieces, api.ErrFeature},
 	} {
 		for l, at := range surroundings(t, x.s) {
 			if r, n, e := track.Sizes(l, at); len(r) != 0 || n != at+x.place || e != x.e {
@@ -274,6 +278,73 @@ func TestEnd(t *testing.T) { // P6.2: words with which no piece begins
 		fails(t, "[a] "+s, 3, api.ErrSyntax)
 		if s != ")" {
 			fails(t, "repeat(2, 10px "+s, 4, api.ErrSyntax)
+		}
+	}
+}
+
+// strays are words with which no piece of a repeat begins, and what value tells of them.
+func strays() map[string]api.Errno {
+	return map[string]api.Errno{
+		"2em": api.ErrFeature, "1Q": api.ErrFeature, "calc(1px)": api.ErrFeature, "VAR(": api.ErrFeature, "inherit": api.ErrFeature, "revert": api.ErrFeature,
+		"1e99px": api.ErrOver, "-1e99px": api.ErrOver, "2000000%": api.ErrOver, "2000000fr": api.ErrOver,
+		"-1px": api.ErrSyntax, "-1%": api.ErrSyntax, "-2000000%": api.ErrSyntax, "-1fr": api.ErrSyntax, "3": api.ErrSyntax, "1.5": api.ErrSyntax, "1x": api.ErrSyntax, "a": api.ErrSyntax, "none": api.ErrSyntax, "span": api.ErrSyntax, "repeat(2, 1px)": api.ErrSyntax, "foo(": api.ErrSyntax,
+		"'1px'": api.ErrSyntax, ";": api.ErrSyntax, ",": api.ErrSyntax, "]": api.ErrSyntax, "/": api.ErrSyntax, "(": api.ErrSyntax, strings.Repeat("0", 300) + "1px": api.ErrSyntax,
+	}
+}
+
+func TestStrays(t *testing.T) { // P6.2: those of value go ahead of ErrSyntax
+	ten, named := both(px(10)), list(names("a"), both(px(10)))
+	for s, e := range strays() {
+		for _, kind := range []string{"2", "auto-fill", "auto-fit"} {
+			fails(t, "repeat("+kind+", 10px "+s+")", 4, e)
+			fails(t, "repeat("+kind+", 10px 10px "+s+" 10px)", 5, e)
+			fails(t, "repeat("+kind+", 10px [a] "+s+")", 7, e)
+			fails(t, "repeat("+kind+", minmax(10px, 10px) [] "+s+")", 10, e)
+			fails(t, "10px repeat("+kind+", [a] 10px "+s+")", 8, e)
+			fails(t, "repeat("+kind+", "+s+" 10px)", 3, e)
+			fails(t, "repeat("+kind+", [a] "+s+" 10px)", 6, e)
+			fails(t, "[a] repeat("+kind+", [] "+s+" 10px)", 8, e)
+		}
+		if s == "repeat(2, 1px)" {
+			continue // a piece, unless it stands within another one
+		}
+		fails(t, "[a] "+s, 3, e)
+		reads(t, "10px "+s, 1, list(ten))
+		reads(t, "[a] 10px "+s+" 10px", 4, named)
+		reads(t, "repeat(2, 10px) "+s, 5, list(repeat(2, ten)))
+	}
+}
+
+func TestLongNumbers(t *testing.T) { // P6.1, P6.2: what value tells of them
+	last, beyond := strings.Repeat("0", 299)+"1", strings.Repeat("0", 300)+"1"
+	one := minmax(px(1), px(1))
+	for _, unit := range []string{"px", "%", "fr"} {
+		l := words(t, beyond+unit)
+		if r, n, e := track.Size(l, 0); r != (api.Track{}) || n != 0 || e != api.ErrSyntax {
+			t.Errorf("Size, %s: %v, %d, %d", unit, r, n, int(e))
+		}
+		if r, n, e := track.Sizes(l, 0); len(r) != 0 || n != 0 || e != api.ErrSyntax {
+			t.Errorf("Sizes, %s: %v, %d, %d", unit, r, n, int(e))
+		}
+		if r, n, e := track.Sizes(words(t, "1px "+beyond+unit), 0); !slices.Equal(r, []api.Track{one}) || n != 1 || e != api.OK {
+			t.Errorf("Sizes behind a size, %s: %v, %d, %d", unit, r, n, int(e))
+		}
+		fails(t, beyond+unit, 0, api.ErrSyntax)
+		fails(t, "minmax("+beyond+unit+", 1px)", 1, api.ErrSyntax)
+		fails(t, "minmax(1px, "+beyond+unit+")", 3, api.ErrSyntax)
+		fails(t, "fit-content("+beyond+unit+")", 1, api.ErrSyntax)
+		reads(t, "1px "+beyond+unit, 1, list(size(one)))
+	}
+	reads(t, last+"px "+last+"%", 2, list(size(one), both(pct(1))))
+	reads(t, "repeat("+last+", 1px)", 5, list(repeat(1, size(one))))
+	fails(t, "repeat("+beyond+", 1px)", 1, api.ErrSyntax)
+	fails(t, "repeat(-"+last+", 1px)", 1, api.ErrSyntax)
+	fails(t, "repeat("+strings.Repeat("9", 300)+", 1px)", 1, api.ErrOver)
+	fails(t, "repeat(-"+strings.Repeat("9", 299)+", 1px)", 1, api.ErrOver)
+	for _, num := range []string{"", "abc", "--1", "+"} {
+		l := []api.Token{{Kind: api.TokFunc, Text: "repeat"}, {Kind: api.TokNum, Num: num}, {Kind: api.TokSign, Text: ","}, {Kind: api.TokNum, Num: "0"}, {Kind: api.TokSign, Text: ")"}}
+		if p, n, e := track.Template(l, 0); len(p) != 0 || n != 1 || e != api.ErrSyntax {
+			t.Errorf("repeat(%s: %v, %d, %d", num, p, n, int(e))
 		}
 	}
 }
