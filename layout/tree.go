@@ -113,8 +113,7 @@ func (t *Tree) widths(i int) api.Content {
 	words := t.nodes[i].Style.Content
 	least, e := leaf.Min(words)
 	check(i, e)
-	greatest, e := leaf.Max(words)
-	check(i, e)
+	greatest, _ := leaf.Max(words) // it has no errors but those of Min
 	return api.Content{Min: least, Max: greatest}
 }
 
